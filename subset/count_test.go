@@ -91,13 +91,14 @@ func TestUpto(t *testing.T) {
 	}
 }
 
-// The limit itself is told: all sets of 62, and half of those of 63.
+// The limit itself is told: all sets of 62, and half of those of 63. Those of
+// 64 that have at most 29 numbers are the fewest above it.
 func TestUptoOfTheLimit(t *testing.T) {
 	for _, c := range [][2]int{{62, 62}, {62, 63}, {62, math.MaxInt}, {63, 31}} {
 		count, e := subset.Upto(c[0], c[1])
 		is(t, "Upto", c[0], c[1], count, e, limit)
 	}
-	for _, c := range [][2]int{{63, 32}, {63, 62}, {63, 63}, {63, 64}, {63, math.MaxInt}, {64, 30}, {64, 31}, {64, 32}, {64, 64}, {64, 65}, {64, math.MaxInt}} {
+	for _, c := range [][2]int{{63, 32}, {63, 62}, {63, 63}, {63, 64}, {63, math.MaxInt}, {64, 29}, {64, 30}, {64, 31}, {64, 32}, {64, 64}, {64, 65}, {64, math.MaxInt}} {
 		count, e := subset.Upto(c[0], c[1])
 		fails(t, "Upto", c[0], c[1], count, e, api.ErrLimit)
 	}
