@@ -82,6 +82,9 @@ func everyProgram(do func(name string, p api.Program, handed [][]byte)) {
 	do("nothing of something", api.Program{Regs: 256}, blocks(70, 3))
 	do("all registers", all(256, 64), blocks(1, 3))
 	do("65536 steps", full(65536), nil)
+	for _, length := range []int{255, 256, 4097, 65536} {
+		do(fmt.Sprint("long blocks ", length), seeded(length).program(5, 5, 3, 20), blocks(3, length))
+	}
 	for seed := range 1500 {
 		s := seeded(seed)
 		count := s.below(5)
